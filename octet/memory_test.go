@@ -7,22 +7,11 @@ import (
 
 	"chronicle/api"
 	"chronicle/octet"
+	"chronicle/probe"
 )
 
-// roomy is a copy of b with room behind its end, which holds other bytes, and a check that neither was changed.
-func roomy(b string) ([]byte, func() bool) {
-	whole := append([]byte(b), "room behind the end"...)
-	kept := bytes.Clone(whole)
-	return whole[:len(b)], func() bool { return bytes.Equal(whole, kept) }
-}
-
 // scribble writes over all that a list has, and behind it.
-func scribble(b []byte) {
-	b = b[:cap(b)]
-	for i := range b {
-		b[i] ^= 0x55
-	}
-}
+func scribble(b []byte) { clear(b[:cap(b)]) }
 
 // 1.14
 func TestNothingHandedInIsChanged(t *testing.T) {
@@ -46,7 +35,7 @@ func TestNothingHandedInIsChanged(t *testing.T) {
 			r.Fail(api.ErrKind)
 		},
 	} {
-		b, same := roomy("\x03abc")
+		b, same := probe.Roomy("\x03abc")
 		if use(b); !same() {
 			t.Errorf("%s changes what it was handed", name)
 		}

@@ -7,6 +7,7 @@ import (
 
 	"chronicle/api"
 	"chronicle/octet"
+	"chronicle/probe"
 )
 
 // edges has, for each length of a short number, its least and its greatest one, and some in between.
@@ -18,23 +19,10 @@ func edges() []uint64 {
 	return list
 }
 
-// noise is a row of numbers that look like none in particular, the same in each run.
-func noise(n int) []uint64 {
-	list := make([]uint64, n)
-	x := uint64(88172645463325252)
-	for i := range list {
-		x ^= x << 13
-		x ^= x >> 7
-		x ^= x << 17
-		list[i] = x
-	}
-	return list
-}
-
-// noiseBytes is such a row as bytes.
+// noiseBytes is a row of bytes that look like none in particular.
 func noiseBytes(n int) []byte {
 	b := make([]byte, n)
-	for i, x := range noise(n) {
+	for i, x := range probe.Noise(1, n) {
 		b[i] = byte(x >> 20)
 	}
 	return b
@@ -71,7 +59,7 @@ func TestUvarint(t *testing.T) {
 			t.Errorf("Uvarint(%d) = %x, want %x", c.v, got, c.want)
 		}
 	}
-	for _, v := range append(edges(), noise(500)...) {
+	for _, v := range append(edges(), probe.Noise(1, 500)...) {
 		v >>= v % 60
 		if got := octet.Uvarint(v); !bytes.Equal(got, groups(v)) {
 			t.Errorf("Uvarint(%d) = %x, want %x", v, got, groups(v))
@@ -90,7 +78,7 @@ func TestUvarintLengthsRise(t *testing.T) {
 
 // 1.2
 func TestReadUvarintReadsBack(t *testing.T) {
-	for _, v := range append(edges(), noise(500)...) {
+	for _, v := range append(edges(), probe.Noise(1, 500)...) {
 		b := octet.Uvarint(v)
 		for _, tail := range [][]byte{nil, {0}, {1}, {0x80}, {255, 255}} {
 			got, n, e := octet.ReadUvarint(append(bytes.Clone(b), tail...))
@@ -176,7 +164,7 @@ func TestZigzag(t *testing.T) {
 			t.Errorf("Unzigzag(%d) = %d, want %d", c.u, got, c.v)
 		}
 	}
-	for _, u := range append(edges(), noise(500)...) {
+	for _, u := range append(edges(), probe.Noise(1, 500)...) {
 		want := int64(u / 2)
 		if u%2 == 1 {
 			want = -want - 1

@@ -6,6 +6,7 @@ import (
 	"testing"
 
 	"chronicle/octet"
+	"chronicle/probe"
 )
 
 // slowExtend goes through b bit by bit, as the chapter tells it.
@@ -37,7 +38,7 @@ func slowJoin(a, b uint32, n int) uint32 {
 
 func starts() []uint32 {
 	list := []uint32{0, 1, 2, 255, 256, 1 << 31, 0x82F63B78, math.MaxUint32, math.MaxUint32 - 1}
-	for _, x := range noise(20) {
+	for _, x := range probe.Noise(1, 20) {
 		list = append(list, uint32(x))
 	}
 	return list

@@ -1,0 +1,24 @@
+// Package probe: what the tests of several layers share. The program itself does not call it.
+package probe
+
+import "bytes"
+
+// Noise is a row of n numbers that look like none in particular; it is the same for the same seed.
+func Noise(seed uint64, n int) []uint64 {
+	list := make([]uint64, n)
+	x := seed*2685821657736338717 + 88172645463325252
+	for i := range list {
+		x ^= x << 13
+		x ^= x >> 7
+		x ^= x << 17
+		list[i] = x
+	}
+	return list
+}
+
+// Roomy is a copy of b with room behind its end, which holds other bytes, and a check that neither was changed.
+func Roomy(b string) ([]byte, func() bool) {
+	whole := append([]byte(b), "room behind the end"...)
+	kept := bytes.Clone(whole)
+	return whole[:len(b)], func() bool { return bytes.Equal(whole, kept) }
+}
