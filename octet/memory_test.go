@@ -10,27 +10,24 @@ import (
 	"chronicle/probe"
 )
 
-// scribble writes over all that a list has, and behind it.
-func scribble(b []byte) { clear(b[:cap(b)]) }
-
 // 1.14
 func TestNothingHandedInIsChanged(t *testing.T) {
 	for name, use := range map[string]func(b []byte){
 		"ReadUvarint": func(b []byte) { octet.ReadUvarint(b) },
 		"Sum":         func(b []byte) { octet.Sum(b) },
 		"Extend":      func(b []byte) { octet.Extend(1, b) },
-		"Patch":       func(b []byte) { scribble(octet.Patch(b, 1)) },
+		"Patch":       func(b []byte) { probe.Scribble(octet.Patch(b, 1)) },
 		"Unpack":      func(b []byte) { octet.Unpack([]int{api.IBytes}, 9, b) },
 		"Writer.Raw": func(b []byte) {
 			w := octet.NewWriter()
 			w.Raw(b)
 			w.Byte(1)
-			scribble(w.Bytes())
+			probe.Scribble(w.Bytes())
 		},
 		"Reader": func(b []byte) {
 			r := octet.NewReader(b)
-			scribble(r.Raw(2))
-			scribble(r.Raw(1))
+			probe.Scribble(r.Raw(2))
+			probe.Scribble(r.Raw(1))
 			r.Text(9)
 			r.Fail(api.ErrKind)
 		},
@@ -62,7 +59,7 @@ func TestNothingHandedInIsKept(t *testing.T) {
 	w.Raw(b)
 	r := octet.NewReader(b)
 	items, _ := octet.Unpack([]int{api.IBytes, api.IBytes}, 9, b)
-	scribble(b)
+	probe.Scribble(b)
 	if string(w.Bytes()) != "\x03abc\x02de" {
 		t.Errorf("the writer shows it: %q", w.Bytes())
 	}
@@ -82,7 +79,7 @@ func TestWhatIsHandedOutIsNew(t *testing.T) {
 	} {
 		first := ask()
 		kept := bytes.Clone(first)
-		if scribble(first); !bytes.Equal(ask(), kept) {
+		if probe.Scribble(first); !bytes.Equal(ask(), kept) {
 			t.Errorf("%s: a later answer shows what was done to an earlier one", name)
 		}
 	}
@@ -93,7 +90,7 @@ func TestWriterHandsOutNewMemory(t *testing.T) {
 	for range 40 {
 		w.Byte(7)
 		first, second := w.Bytes(), w.Bytes()
-		scribble(first)
+		probe.Scribble(first)
 		if want := bytes.Repeat([]byte{7}, w.Len()); !bytes.Equal(second, want) || !bytes.Equal(w.Bytes(), want) {
 			t.Fatalf("written into an answer of %d bytes, and it is to be seen", w.Len())
 		}
@@ -108,10 +105,10 @@ func TestWriterHandsOutNewMemory(t *testing.T) {
 func TestReaderHandsOutNewMemory(t *testing.T) {
 	r := octet.NewReader([]byte("abcdef"))
 	first := r.Raw(2)
-	scribble(first)
+	probe.Scribble(first)
 	_ = append(first, "XXXX"...)
 	second := r.Raw(2)
-	scribble(first)
+	probe.Scribble(first)
 	if string(second) != "cd" || string(r.Raw(2)) != "ef" {
 		t.Errorf("written into an answer, and later ones show it: %q", second)
 	}

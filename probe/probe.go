@@ -22,3 +22,6 @@ func Roomy(b string) ([]byte, func() bool) {
 	kept := bytes.Clone(whole)
 	return whole[:len(b)], func() bool { return bytes.Equal(whole, kept) }
 }
+
+// Scribble writes over all that a list has, and over the room behind its end.
+func Scribble[T any](list []T) { clear(list[:cap(list)]) }

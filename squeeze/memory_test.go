@@ -9,14 +9,11 @@ import (
 	"chronicle/squeeze"
 )
 
-// scribble writes over all that a list has, and behind it.
-func scribble(b []byte) { clear(b[:cap(b)]) }
-
-// scribbleTokens does so to a list of tokens and to their literals.
+// scribbleTokens writes over a list of tokens and over their literals, and behind them.
 func scribbleTokens(ts []api.Token) {
 	ts = ts[:cap(ts)]
 	for i := range ts {
-		scribble(ts[i].Lit)
+		probe.Scribble(ts[i].Lit)
 		ts[i] = api.Token{Dist: 99, Len: 99}
 	}
 }
@@ -29,8 +26,8 @@ const (
 // 2.10
 func TestBytesHandedInAreNotChanged(t *testing.T) {
 	for name, use := range map[string]func(b []byte){
-		"Encode": func(b []byte) { x, _ := squeeze.Encode(b); scribble(x) },
-		"Decode": func(b []byte) { x, _ := squeeze.Decode(b); scribble(x) },
+		"Encode": func(b []byte) { x, _ := squeeze.Encode(b); probe.Scribble(x) },
+		"Decode": func(b []byte) { x, _ := squeeze.Decode(b); probe.Scribble(x) },
 		"Tokens": func(b []byte) { ts, _ := squeeze.Tokens(b); scribbleTokens(ts) },
 		"Read":   func(b []byte) { ts, _ := squeeze.Read(b); scribbleTokens(ts) },
 	} {
@@ -45,8 +42,8 @@ func TestBytesHandedInAreNotChanged(t *testing.T) {
 
 func TestTokensHandedInAreNotChanged(t *testing.T) {
 	for name, use := range map[string]func(ts []api.Token){
-		"Expand": func(ts []api.Token) { x, _ := squeeze.Expand(ts); scribble(x) },
-		"Write":  func(ts []api.Token) { x, _ := squeeze.Write(ts); scribble(x) },
+		"Expand": func(ts []api.Token) { x, _ := squeeze.Expand(ts); probe.Scribble(x) },
+		"Write":  func(ts []api.Token) { x, _ := squeeze.Write(ts); probe.Scribble(x) },
 	} {
 		first, sameFirst := probe.Roomy("abcdeX")
 		second, sameSecond := probe.Roomy("Y")
@@ -70,8 +67,8 @@ func TestNothingHandedInIsKept(t *testing.T) {
 	read, _ := squeeze.Read(block)
 	expanded, _ := squeeze.Expand(ts)
 	written, _ := squeeze.Write(ts)
-	scribble(text)
-	scribble(block)
+	probe.Scribble(text)
+	probe.Scribble(block)
 	scribbleTokens(ts)
 	if string(encoded) != packed || string(written) != packed {
 		t.Errorf("a block shows it: %q, %q", encoded, written)
@@ -87,7 +84,7 @@ func TestNothingHandedInIsKept(t *testing.T) {
 func TestOneLiteralIsNotKept(t *testing.T) {
 	b := []byte("abc")
 	x, _ := squeeze.Expand([]api.Token{{Lit: b}})
-	scribble(b)
+	probe.Scribble(b)
 	if string(x) != "abc" {
 		t.Errorf("the text of one literal shows what was done to it: %q", x)
 	}
@@ -106,7 +103,7 @@ func TestLiteralsShareNoMemory(t *testing.T) {
 			if !sameTokens(got, want) {
 				t.Fatalf("%s: %v", name, got)
 			}
-			scribble(got[changed].Lit)
+			probe.Scribble(got[changed].Lit)
 			_ = append(got[changed].Lit, "written behind"...)
 			for i := range got {
 				if i != changed && !bytes.Equal(got[i].Lit, want[i].Lit) {
@@ -127,7 +124,7 @@ func TestWhatIsHandedOutIsNew(t *testing.T) {
 	} {
 		first := ask()
 		kept := bytes.Clone(first)
-		if scribble(first); !bytes.Equal(ask(), kept) {
+		if probe.Scribble(first); !bytes.Equal(ask(), kept) {
 			t.Errorf("%s: a later answer shows what was done to an earlier one", name)
 		}
 	}
