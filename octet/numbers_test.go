@@ -19,15 +19,6 @@ func edges() []uint64 {
 	return list
 }
 
-// noiseBytes is a row of bytes that look like none in particular.
-func noiseBytes(n int) []byte {
-	b := make([]byte, n)
-	for i, x := range probe.Noise(1, n) {
-		b[i] = byte(x >> 20)
-	}
-	return b
-}
-
 // groups writes the short number of v as the chapter tells it: with quotients and rests.
 func groups(v uint64) []byte {
 	var b []byte

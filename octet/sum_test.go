@@ -63,7 +63,7 @@ func TestSum(t *testing.T) {
 			t.Errorf("Sum(%x) = %08X", b, got)
 		}
 	}
-	b := noiseBytes(300)
+	b := []byte(probe.Text(1, 300))
 	for n := range b {
 		if got := octet.Sum(b[:n]); got != slowExtend(0, b[:n]) {
 			t.Errorf("Sum of %d bytes = %08X, want %08X", n, got, slowExtend(0, b[:n]))
@@ -72,7 +72,7 @@ func TestSum(t *testing.T) {
 }
 
 func TestSumTellsShortDamage(t *testing.T) {
-	b := noiseBytes(40)
+	b := []byte(probe.Text(1, 40))
 	want := octet.Sum(b)
 	for at := range len(b) - 4 {
 		for _, x := range starts() {
@@ -92,7 +92,7 @@ func TestExtend(t *testing.T) {
 	if got := octet.Extend(0xC1D04330, []byte("bc")); got != 0x364B3FB7 {
 		t.Errorf("Extend(a, bc) = %08X", got)
 	}
-	b := noiseBytes(70)
+	b := []byte(probe.Text(1, 70))
 	for _, sum := range starts() {
 		if octet.Extend(sum, nil) != sum {
 			t.Errorf("Extend(%08X, nil) changes it", sum)
@@ -119,7 +119,7 @@ func TestJoin(t *testing.T) {
 			}
 		}
 	}
-	b := noiseBytes(90)
+	b := []byte(probe.Text(1, 90))
 	for n := range len(b) + 1 {
 		if octet.Join(octet.Sum(b[:n]), octet.Sum(b[n:]), len(b)-n) != octet.Sum(b) {
 			t.Errorf("cut at %d: not the sum of the whole", n)
@@ -155,7 +155,7 @@ func TestJoinIsAssociative(t *testing.T) {
 
 // 1.7
 func TestPatch(t *testing.T) {
-	b := noiseBytes(50)
+	b := []byte(probe.Text(1, 50))
 	for _, want := range starts() {
 		for n := range b {
 			p := octet.Patch(b[:n], want)

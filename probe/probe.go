@@ -16,6 +16,15 @@ func Noise(seed uint64, n int) []uint64 {
 	return list
 }
 
+// Text is a text of n bytes that look like none in particular: squeezing does not make it shorter.
+func Text(seed uint64, n int) string {
+	b := make([]byte, n)
+	for i, x := range Noise(seed, n) {
+		b[i] = byte(x >> 20)
+	}
+	return string(b)
+}
+
 // Roomy is a copy of b with room behind its end, which holds other bytes, and a check that neither was changed.
 func Roomy(b string) ([]byte, func() bool) {
 	whole := append([]byte(b), "room behind the end"...)

@@ -57,7 +57,7 @@ func TestEncodeAndSize(t *testing.T) {
 func TestBodiesAreBounded(t *testing.T) {
 	for n, r := range map[int]api.Record{
 		5:    value(0, 0, "k", ""),
-		1115: by(lastPid, lastSeq, value(lastOffset, lastTime, strings.Repeat("k", 64), noiseText(2, 1024))),
+		1115: by(lastPid, lastSeq, value(lastOffset, lastTime, strings.Repeat("k", 64), probe.Text(2, 1024))),
 	} {
 		b, _ := record.Encode(r)
 		if len(b) != 9+n || record.Size(r) != 9+n {
@@ -76,7 +76,7 @@ func TestBodiesAreBounded(t *testing.T) {
 func TestValuesAreSqueezed(t *testing.T) {
 	fewer, same, more := 0, 0, 0
 	for n := range 1025 {
-		for _, v := range []string{strings.Repeat("ab", n)[:n], noiseText(uint64(n), n), noiseText(7, n/2) + noiseText(7, n-n/2), (asMany + noiseText(5, n))[:n]} {
+		for _, v := range []string{strings.Repeat("ab", n)[:n], probe.Text(uint64(n), n), probe.Text(7, n/2) + probe.Text(7, n-n/2), (asMany + probe.Text(5, n))[:n]} {
 			block, _ := squeeze.Encode([]byte(v))
 			b, e := record.Encode(value(0, 0, "k", v))
 			if e != api.OK {
@@ -178,7 +178,7 @@ func TestDecodeOfLengths(t *testing.T) {
 	}
 	// With a right sum they may not be either.
 	wantNoRecord(t, "a body of 4", framed([]byte{0, 0, 0, 1}), api.ErrBroken)
-	body := append(slowBody(by(lastPid, lastSeq, value(lastOffset, lastTime, strings.Repeat("k", 64), noiseText(2, 1024)))), 0)
+	body := append(slowBody(by(lastPid, lastSeq, value(lastOffset, lastTime, strings.Repeat("k", 64), probe.Text(2, 1024)))), 0)
 	wantNoRecord(t, "a body of 1116", framed(body), api.ErrBroken)
 }
 
@@ -263,7 +263,7 @@ func forged() map[string]string {
 		"a block of other tokens":           "\x02\x05\x05\x01k" + "\x0c\x02a\x0b\x01\x0d\x01",
 		"a squeezed value too long":         "\x02\x05\x05\x01k" + squeezedTo(strings.Repeat("a", 1025)),
 		"a squeezed value far too long":     "\x02\x05\x05\x01k" + squeezedTo(strings.Repeat("a", 4096)),
-		"a value too long":                  "\x00\x05\x05\x01k" + noiseText(1, 1025),
+		"a value too long":                  "\x00\x05\x05\x01k" + probe.Text(1, 1025),
 	}
 	for flags := 8; flags < 256; flags++ {
 		list["the flags "+strconv.Itoa(flags)] = string([]byte{byte(flags)}) + behindFlags(flags)
@@ -341,7 +341,7 @@ func TestDecodeTakesOneForm(t *testing.T) {
 
 func TestDecodeOfAnyBytes(t *testing.T) {
 	for seed := range uint64(2000) {
-		body := []byte(noiseText(seed, int(5+seed%40)))
+		body := []byte(probe.Text(seed, int(5+seed%40)))
 		for i := range body[:4] {
 			body[i] %= 8
 		}

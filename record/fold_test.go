@@ -67,7 +67,7 @@ func logs() [][]api.Record {
 	for seed := range uint64(60) {
 		var l []api.Record
 		for i, x := range probe.Noise(seed, int(seed)) {
-			r := value(int64(i)*3, int64(x>>30%50), string([]byte{byte(x % 7 * 40)}), noiseText(x, int(x>>8%9)))
+			r := value(int64(i)*3, int64(x>>30%50), string([]byte{byte(x % 7 * 40)}), probe.Text(x, int(x>>8%9)))
 			if x>>20%3 == 0 {
 				r = tomb(r.Offset, r.Time, r.Key)
 			}

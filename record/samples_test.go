@@ -35,15 +35,6 @@ func by(pid, seq int64, r api.Record) api.Record {
 	return r
 }
 
-// noiseText is a text of n bytes that repeats nothing: squeezing does not make it shorter.
-func noiseText(seed uint64, n int) string {
-	b := make([]byte, n)
-	for i, x := range probe.Noise(seed, n) {
-		b[i] = byte(x >> 20)
-	}
-	return string(b)
-}
-
 // asMany is a text whose block has just as many bytes as it.
 const asMany = "abcdeXabcdeY"
 
@@ -58,8 +49,8 @@ func right() []api.Record {
 		by(9, 1, tomb(5, 300, "k")),
 		tomb(0, 0, "\x00"),
 		value(127, 128, "\xff\x00\xa9", "\x00"),
-		value(lastOffset, lastTime, every, noiseText(1, 1024)),
-		by(lastPid, lastSeq, value(lastOffset, lastTime, every, noiseText(2, 1024))),
+		value(lastOffset, lastTime, every, probe.Text(1, 1024)),
+		by(lastPid, lastSeq, value(lastOffset, lastTime, every, probe.Text(2, 1024))),
 		by(lastPid, lastSeq, value(lastOffset, lastTime, every, strings.Repeat("v", 1024))),
 		by(lastPid, lastSeq, tomb(lastOffset, lastTime, every)),
 		by(1, 1, value(1, 1, "k", asMany)),
@@ -68,7 +59,7 @@ func right() []api.Record {
 		value(1, 1, "k", "aaaaa"),
 		value(1, 1, "k", "aaaaaa"),
 		value(1, 1, "k", strings.Repeat("abc", 10)),
-		value(1, 1, noiseText(3, 64), noiseText(4, 700)+noiseText(4, 300)),
+		value(1, 1, probe.Text(3, 64), probe.Text(4, 700)+probe.Text(4, 300)),
 		by(128, 16384, value(1<<35, 1<<49, "日本", "\xa9\x00\x00\x00\x05")),
 	}
 }
