@@ -55,20 +55,20 @@ func TestExamples(t *testing.T) {
 	want(t, "Committed", p.State().Committed, 4)
 	wantList(t, "files", namesOf(d.Image()), []string{"t3.1.hint", "t3.1.seg", "t3.2.seg", "t3.man"})
 	wantList(t, "Sealed", p.Sealed(), []int{1})
-	image := key(d.Image())
+	image := probe.Key(d.Image())
 	want(t, "Roll of nothing", p.Roll(), api.OK)
-	want(t, "nothing is done", key(d.Image()), image)
+	want(t, "nothing is done", probe.Key(d.Image()), image)
 }
 
 // unchanged fails if a call has changed a topic, its clock aside, or its disk.
 func unchanged(t *testing.T, what string, d *simfs.Disk, p *topic.Topic, call func()) {
 	t.Helper()
-	before, image, ops := p.State(), key(d.Image()), d.Ops()
+	before, image, ops := p.State(), probe.Key(d.Image()), d.Ops()
 	call()
 	after := p.State()
 	after.Clock = before.Clock
 	want(t, what+": State", after, before)
-	want(t, what+": the disk is as it was", key(d.Image()) == image, true)
+	want(t, what+": the disk is as it was", probe.Key(d.Image()) == image, true)
 	want(t, what+": operations", d.Ops(), ops)
 }
 

@@ -12,44 +12,6 @@ import (
 	"chronicle/topic"
 )
 
-// leavings is what a crash may leave of a disk: all of it, where one file at most waits for a sync, and some of it else.
-func leavings(d *simfs.Disk) [][]api.File {
-	var all [][]api.File
-	known := map[string]int{}
-	add := func(picks ...int) bool {
-		image := d.Crash(picks)
-		k := key(image)
-		known[k]++
-		if known[k] == 1 {
-			all = append(all, image)
-		}
-		return known[k] == 1
-	}
-	for named := range 8 {
-		add(named)
-		for at := range len(d.Crash([]int{named})) + 1 {
-			picks := make([]int, at+1, at+3)
-			picks[0] = named
-			if !add(append(picks, 1)...) && !add(append(picks, 0, 1)...) {
-				continue // nothing waits there, or it is known
-			}
-			for changes := range 7 {
-				for torn := range 60 {
-					add(append(picks, changes, torn)...)
-				}
-			}
-		}
-	}
-	for seed := range uint64(20) {
-		var picks []int
-		for _, x := range probe.Noise(seed, 14) {
-			picks = append(picks, int(x>>20%1000))
-		}
-		add(picks...)
-	}
-	return all
-}
-
 // deed is something that is done to a topic.
 type deed struct {
 	write *api.Write
@@ -130,7 +92,7 @@ func wantPart(t *testing.T, what string, image []api.File, s *tale) int {
 	want(t, what+": Committed", state.Committed, int64(n))
 	want(t, what+": Next", state.Next, int64(n))
 	want(t, what+": Pending", state.Pending, 0)
-	want(t, what+": what is opened is durable", key(d.Crash(nil)) == key(d.Image()), true)
+	want(t, what+": what is opened is durable", probe.Key(d.Crash(nil)) == probe.Key(d.Image()), true)
 	// Offsets go on behind it.
 	more := at(max(50, state.Clock), put(int64(n), "more", "x"))
 	lay(t, p, more)
@@ -152,7 +114,7 @@ func wantNoLess(t *testing.T, what string, image []api.File, recs []api.Record) 
 			return
 		}
 		wantRefused(t, what, p, e, api.ErrDead)
-		for _, left := range leavings(d) {
+		for _, left := range probe.Leavings(d) {
 			again, _ := simfs.Load(left, 1<<20)
 			wantRecords(t, fmt.Sprintf("%s: power for %d in Open", what, fuse), opened(t, again), recs...)
 		}
@@ -175,7 +137,7 @@ func TestNothingAcknowledgedIsLost(t *testing.T) {
 				}
 				d.Fuse(fuse)
 				s.live(d, p, deeds)
-				for _, left := range leavings(d) {
+				for _, left := range probe.Leavings(d) {
 					name := fmt.Sprintf("%s, behind %s, power for %d", what, began, fuse)
 					n := wantPart(t, name, left, s)
 					lengths[fmt.Sprint(n > s.firm, " ", n < len(s.accepted))]++
@@ -206,7 +168,7 @@ func TestCreateAndCrashes(t *testing.T) {
 			p, e := topic.Create(d, 3, 256, 100, 7)
 			want(t, "Create", e == api.OK, fuse == 8)
 			want(t, "Create", p != nil, fuse == 8)
-			for _, left := range leavings(d) {
+			for _, left := range probe.Leavings(d) {
 				again, _ := simfs.Load(left, 1<<20)
 				q, e2 := topic.Open(again, 3, 256, 100, 0)
 				switch {
@@ -243,7 +205,7 @@ func TestRefusedCreateAndCrashes(t *testing.T) {
 			if e != api.ErrSpace && (e != api.ErrDead || fuse < 0) || p != nil {
 				t.Errorf("room for %d, power for %d: %d", room, fuse, e)
 			}
-			for _, left := range leavings(d) {
+			for _, left := range probe.Leavings(d) {
 				again, _ := simfs.Load(left, 1<<20)
 				q, e := topic.Open(again, 3, 256, 100, 0)
 				wantRefused(t, "Open", q, e, api.ErrTopic)
@@ -287,7 +249,7 @@ func TestInstallAndCrashes(t *testing.T) {
 			if e != api.OK {
 				want(t, "the mark", p.State().Mark, 0)
 			}
-			for _, left := range leavings(d) {
+			for _, left := range probe.Leavings(d) {
 				again, _ := simfs.Load(left, 1<<20)
 				q := opened(t, again)
 				recs, _ := q.Records()
@@ -337,7 +299,7 @@ func TestTwoTopicsAndCrashes(t *testing.T) {
 				two.live(d, q, []deed{{roll: true}})
 			}
 		}
-		for _, left := range leavings(d) {
+		for _, left := range probe.Leavings(d) {
 			wantPart(t, fmt.Sprint("power for ", fuse), left, one)
 			again, _ := simfs.Load(left, 1<<20)
 			opened(t, again)

@@ -7,6 +7,7 @@ import (
 	"testing"
 
 	"chronicle/api"
+	"chronicle/probe"
 	"chronicle/simfs"
 	"chronicle/topic"
 )
@@ -409,10 +410,10 @@ func TestInstallWithoutRoom(t *testing.T) {
 	all := slices.Concat(ones(), twos(), late())
 	for _, room := range []int{0, 1, man - 1} {
 		d.SetQuota(d.Used() + room)
-		before, image := p.State(), key(d.Image())
+		before, image := p.State(), probe.Key(d.Image())
 		want(t, "Install", p.Install([]int{1, 2}, []int{n}, 3), api.ErrSpace)
 		want(t, "State", p.State(), before)
-		want(t, "the disk is as it was", key(d.Image()) == image, true)
+		want(t, "the disk is as it was", probe.Key(d.Image()) == image, true)
 		wantRecords(t, "as before", p, all...)
 		wantGet(t, "as before", p, "b", twos()[1])
 	}

@@ -116,7 +116,7 @@ func TestOperationsOfWriting(t *testing.T) {
 	want(t, "operations of what is there already", d.Ops(), ops)
 	commit(t, p)
 	want(t, "operations of a Commit", d.Ops(), ops+1)
-	want(t, "what is durable", key(d.Crash(nil)) == key(d.Image()), true)
+	want(t, "what is durable", probe.Key(d.Crash(nil)) == probe.Key(d.Image()), true)
 	commit(t, p)
 	want(t, "operations of a Commit of nothing", d.Ops(), ops+1)
 }

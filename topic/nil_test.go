@@ -5,6 +5,7 @@ import (
 	"testing"
 
 	"chronicle/api"
+	"chronicle/probe"
 	"chronicle/simfs"
 	"chronicle/topic"
 )
@@ -73,7 +74,7 @@ func wantGone(t *testing.T, what string, d *simfs.Disk, p *topic.Topic) {
 	t.Helper()
 	for range 2 {
 		clock := p.Tick(-1)
-		image, ops := key(d.Image()), d.Ops()
+		image, ops := probe.Key(d.Image()), d.Ops()
 		wantNothing(t, what, p, api.ErrGone)
 		want(t, what+": State", p.State(), api.TopicState{Id: 3})
 		want(t, what+": Id", p.Id(), 3)
@@ -82,7 +83,7 @@ func wantGone(t *testing.T, what string, d *simfs.Disk, p *topic.Topic) {
 		want(t, what+": Horizon", p.Horizon(), 100)
 		want(t, what+": Tick", p.Tick(0), clock)
 		want(t, what+": Tick", p.Tick(clock+1), clock+1)
-		want(t, what+": the disk is as it was", key(d.Image()) == image && d.Ops() == ops, true)
+		want(t, what+": the disk is as it was", probe.Key(d.Image()) == image && d.Ops() == ops, true)
 	}
 }
 

@@ -1,7 +1,6 @@
 package topic_test
 
 import (
-	"bytes"
 	"encoding/binary"
 	"fmt"
 	"hash/crc32"
@@ -380,16 +379,4 @@ func wantRefused(t *testing.T, what string, p *topic.Topic, e, wanted api.Errno)
 	if p != nil || e != wanted {
 		t.Errorf("%s: %v, %d, want no topic, %d", what, p, e, wanted)
 	}
-}
-
-// key tells an image in one text, so that two can be held against each other.
-func key(image []api.File) string {
-	var b bytes.Buffer
-	for _, f := range image {
-		b.WriteString(f.Name)
-		b.WriteByte(0)
-		b.Write(binary.AppendUvarint(nil, uint64(len(f.Data))))
-		b.Write(f.Data)
-	}
-	return b.String()
 }
