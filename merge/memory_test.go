@@ -9,20 +9,13 @@ import (
 	"chronicle/probe"
 )
 
-// roomy is a copy of a list with room behind its end, which holds something else, and a check that neither was changed.
-func roomy[T comparable](list []T, odd T) ([]T, func() bool) {
-	whole := append(slices.Clone(list), odd, odd)
-	kept := slices.Clone(whole)
-	return whole[:len(list)], func() bool { return slices.Equal(whole, kept) }
-}
-
 // R3
 func TestListsHandedInAreNotChanged(t *testing.T) {
 	list := slices.Concat(mixed()...)
 	for cut := range len(list) + 1 {
 		for _, now := range []int64{-1, 0, 10, 99} {
-			sealed, same := roomy(list[:cut], gone(77, "x"))
-			later, alike := roomy(list[cut:], gone(78, "y"))
+			sealed, same := probe.Spare(list[:cut], gone(77, "x"))
+			later, alike := probe.Spare(list[cut:], gone(78, "y"))
 			kept, _, _ := merge.Compact(sealed, later, now, 10)
 			probe.Scribble(append(kept, api.Record{}))
 			probe.Scribble(kept)
@@ -31,7 +24,7 @@ func TestListsHandedInAreNotChanged(t *testing.T) {
 			}
 		}
 	}
-	stats, same := roomy([]api.SegStat{{Bytes: 100, LiveBytes: 60}, {Bytes: -1}}, api.SegStat{Bytes: 5})
+	stats, same := probe.Spare([]api.SegStat{{Bytes: 100, LiveBytes: 60}, {Bytes: -1}}, api.SegStat{Bytes: 5})
 	want(t, "Due", merge.Due(stats, 40), true)
 	want(t, "Due", merge.Due(stats, 41), false)
 	want(t, "the stats are as they were", same(), true)

@@ -1,7 +1,10 @@
 // Package probe: what the tests of several layers share. The program itself does not call it.
 package probe
 
-import "bytes"
+import (
+	"bytes"
+	"slices"
+)
 
 // Noise is a row of n numbers that look like none in particular; it is the same for the same seed.
 func Noise(seed uint64, n int) []uint64 {
@@ -30,6 +33,13 @@ func Roomy(b string) ([]byte, func() bool) {
 	whole := append([]byte(b), "room behind the end"...)
 	kept := bytes.Clone(whole)
 	return whole[:len(b)], func() bool { return bytes.Equal(whole, kept) }
+}
+
+// Spare is the same of a list: the room behind its end holds an odd one, twice.
+func Spare[T comparable](list []T, odd T) ([]T, func() bool) {
+	whole := append(slices.Clone(list), odd, odd)
+	kept := slices.Clone(whole)
+	return whole[:len(list)], func() bool { return slices.Equal(whole, kept) }
 }
 
 // Scribble writes over all that a list has, and over the room behind its end.
