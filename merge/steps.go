@@ -1,17 +1,23 @@
 package merge
 
 import (
+	"slices"
+
 	"chronicle/api"
 	"chronicle/hint"
 	"chronicle/record"
 	"chronicle/segment"
 )
 
-// copyNext goes on with the next record of the olds: it is passed, or something has to be done ahead of it.
+// copyNext goes on with the next record of the olds: it is passed, or something has to be done ahead of it. An old segment that has none is gone by, which is no step of its own.
 func (m *Merge) copyNext() (api.MergeStep, api.Errno) {
-	seg := m.full[m.from]
+	seg := m.olds[m.from]
 	r, next, e := m.topic.Take(seg, m.at)
-	if e != api.OK {
+	switch {
+	case e == api.ErrPlace && slices.Contains(m.topic.Sealed(), seg): // of one that is none of the sealed any more it is a refusal
+		m.pass(-1)
+		return m.act()
+	case e != api.OK:
 		return api.MergeStep{}, e
 	}
 	size := record.Size(r)
