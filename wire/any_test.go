@@ -52,6 +52,8 @@ func TestShortBodies(t *testing.T) {
 	}
 	for a := range 256 {
 		count(byte(a))
+		count(0x51, byte(a))
+		count(0x52, byte(a))
 		for b := range 256 {
 			count(0x51, byte(a), byte(b))
 			count(0x52, byte(a), byte(b))
