@@ -75,7 +75,7 @@ func (s *Session) Unsubscribe(id uint32) api.Errno {
 	return api.OK
 }
 
-// end closes the reader at a place, and cuts it out of the list. The list without it is a new one: who goes through the old one is not disturbed.
+// end closes the reader at a place, and cuts it out of the list. Nothing is written over the list as it was: who goes through that is not disturbed.
 func (s *Session) end(at int) {
 	s.readers[at].source.Close()
 	s.readers = append(s.readers[:at:at], s.readers[at+1:]...)
