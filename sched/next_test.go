@@ -130,6 +130,18 @@ func TestNextOfDearCosts(t *testing.T) {
 	wantServed(t, q, 1, maxCost, after)
 }
 
+// Next does not go through the rounds that serve nobody one by one: these calls would take longer than a test may.
+func TestNextOfDearCostsEndsSoon(t *testing.T) {
+	q := alike(maxQueues, queue(0, 1, maxCost))
+	for at := range 20000 {
+		q.At = at % maxQueues
+		_, id, cost, ok := sched.Next(q)
+		if !ok || id != q.At || cost != maxCost {
+			t.Fatalf("Next = %d, %d, %v", id, cost, ok)
+		}
+	}
+}
+
 // Of two that are served in the same round it is the one whose turn comes first; of two rounds, the earlier one counts.
 func TestNextOfSeveralDearCosts(t *testing.T) {
 	list := []api.Queue{queue(1, 10, 95), queue(2, 20, 199), queue(3, 5, 46, 5), queue(4, 1)}
