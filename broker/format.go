@@ -1,6 +1,8 @@
 package broker
 
 import (
+	"slices"
+
 	"chronicle/api"
 	"chronicle/catalog"
 	"chronicle/manifest"
@@ -14,14 +16,14 @@ func Format(d *simfs.Disk, cfg api.Config, now int64) api.Errno {
 	if e := check(d, cfg, now); e != api.OK {
 		return e
 	}
-	there, e := hasStore(d)
+	names, there, e := look(d)
 	if e != api.OK {
 		return e
 	}
 	if there {
 		return api.ErrStore
 	}
-	if e := sweep(d); e != api.OK {
+	if e := sweep(d, names); e != api.OK {
 		return e
 	}
 	if _, e := topic.Create(d, groupsId, api.MaxSeg, 0, now); e != api.OK {
@@ -65,21 +67,14 @@ func throttles(cfg api.Config) bool { return cfg.Num != 0 || cfg.Den != 0 || cfg
 
 func isTime(now int64) bool { return 0 <= now && now < api.MaxTime }
 
-// hasStore tells whether there is a catalogue on a disk, of whatever bytes.
-func hasStore(d *simfs.Disk) (bool, api.Errno) {
-	_, e := d.Size(manifest.Name(api.FileName{Kind: api.NCatalogue}))
-	if e == api.ErrNoFile {
-		return false, api.OK
-	}
-	return e == api.OK, e
+// look tells which files a disk has, and whether a catalogue, of whatever bytes, is among them.
+func look(d *simfs.Disk) ([]string, bool, api.Errno) {
+	names, e := d.List()
+	return names, slices.Contains(names, manifest.Name(api.FileName{Kind: api.NCatalogue})), e
 }
 
 // sweep takes away what an unfinished Format has left.
-func sweep(d *simfs.Disk) api.Errno {
-	names, e := d.List()
-	if e != api.OK {
-		return e
-	}
+func sweep(d *simfs.Disk, names []string) api.Errno {
 	swept := 0
 	for _, name := range names {
 		if manifest.Parse(name).Kind == api.NOther {

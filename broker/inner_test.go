@@ -50,6 +50,21 @@ func TestMergeThatCannotBegin(t *testing.T) {
 	}
 }
 
+// What is no loss of power is not taken for one: a fault in the program stays to be seen.
+func TestOtherPanicsGoOn(t *testing.T) {
+	d, _ := simfs.New(1 << 20)
+	cfg := api.Config{Limit: 256, Share: 50}
+	Format(d, cfg, 0)
+	b, _ := Open(d, cfg, 0)
+	b.clients[1] = nil // no call does this
+	defer func() {
+		if recover() == nil || b.State().Dead {
+			t.Errorf("a fault was taken for a loss of power")
+		}
+	}()
+	b.Step(0, 0)
+}
+
 // grow writes one key to a topic until four of its records lie in sealed segments.
 func grow(t *testing.T, p *topic.Topic) {
 	t.Helper()
