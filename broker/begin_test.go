@@ -299,21 +299,31 @@ func TestGroupsOwnTopicIsMerged(t *testing.T) {
 	k.ask(1, join("g"), did(1, 0, api.OpJoin, -1))
 	k.ask(1, reach("g", "u", 1, 0), did(1, 2, api.OpCommit, -1))
 	k.ask(1, drop("u"), did(1, 2, api.OpDrop, api.CodeOK))
-	for filesOf(k.d.Image())["t0.2.seg"] == "" {
-		k.ask(1, reach("g", "t", 1, 0), did(1, 1, api.OpCommit, -1))
-		k.b.Out(1, wide)
+	k.b.Out(1, wide)
+	for n := uint32(1); filesOf(k.d.Image())["t0.2.seg"] == ""; n++ {
+		k.ask(1, id(n, reach("g", "t", 1, 0)), did(1, 1, api.OpCommit, -1))
+		list, _ := read(k.all(1))
+		for _, a := range list {
+			want(t, "an answer ahead of its commit, though others are rolled", a.Id < n, true)
+		}
 	}
 	if n := len(filesOf(k.d.Image())["t0.1.seg"]); n > 65536 || n < 65536-100 {
 		t.Errorf("a segment of %d bytes", n)
 	}
 	k.settle(1)
+	k.fill(1, 1, "t", "k", 5)
+	// Of several that are due it is merged first: its number is the lowest.
+	again := over(t, copied(t, k.d), usual())
+	again.step(api.ClMerge, merged(0, api.MgMake))
+	again.step(api.ClMerge, merged(1, api.MgDrop))
+	again.step(api.ClMerge, merged(0, api.MgKeep))
 	tombs := 0
 	for range 9000 {
 		d, e := k.b.Step(0, api.ClMerge)
 		want(t, "Step", e, api.OK)
 		if d.What == api.DidMerge && d.Kind == api.MgTomb {
 			want(t, "its number", d.Topic, 0)
-			tombs++
+			tombs++ // a tombstone of t's would be young
 		}
 		if d.What == api.DidNothing {
 			break

@@ -15,7 +15,7 @@ const (
 // client is who is at the other end of a connection.
 type client struct {
 	session *session.Session
-	bucket  api.Bucket // of no meaning where connections are not throttled
+	bucket  api.Bucket
 }
 
 // Connect makes a connection and tells its number.
@@ -27,11 +27,8 @@ func (b *Broker) Connect() (int, api.Errno) {
 		return 0, api.ErrConns
 	}
 	b.given++
-	c := &client{session: session.New(b.given)}
-	if throttles(b.cfg) {
-		c.bucket, _ = quota.New(b.cfg.Num, b.cfg.Den, b.cfg.Burst, b.clock)
-	}
-	b.clients[b.given] = c
+	bucket, _ := quota.New(b.cfg.Num, b.cfg.Den, b.cfg.Burst, b.clock) // an empty one, where connections are not throttled
+	b.clients[b.given] = &client{session.New(b.given), bucket}
 	b.turns, _ = sched.Enter(b.turns, b.given, quantum) // the number is new, and there may be more queues than connections
 	return b.given, api.OK
 }

@@ -81,7 +81,7 @@ func (b *Broker) serve(c *client, r api.Request) answer {
 		api.OpDrop:        {true, (*Broker).drop},
 		api.OpList:        {false, (*Broker).list},
 		api.OpPut:         {true, (*Broker).put},
-		api.OpDelete:      {true, (*Broker).delete},
+		api.OpDelete:      {true, (*Broker).remove},
 		api.OpGet:         {true, (*Broker).get},
 		api.OpReplay:      {true, (*Broker).replay},
 		api.OpSnapshot:    {true, (*Broker).snapshot},
@@ -143,7 +143,7 @@ func (b *Broker) put(c call) answer {
 	return b.write(c, api.Write{Key: c.Key, Value: c.Value, Pid: c.Pid, Seq: c.Seq})
 }
 
-func (b *Broker) delete(c call) answer {
+func (b *Broker) remove(c call) answer {
 	return b.write(c, api.Write{Key: c.Key, Tombstone: true, Pid: c.Pid, Seq: c.Seq})
 }
 
