@@ -1,6 +1,7 @@
 package probe
 
 import (
+	"slices"
 	"strconv"
 	"strings"
 
@@ -21,13 +22,21 @@ func Key(image []api.File) string {
 // Leavings is what a crash may leave of a disk: all of it, where one file at most waits for a sync, and some of it else.
 func Leavings(d *simfs.Disk) [][]api.File {
 	var all [][]api.File
+	for _, picks := range Picks(d) {
+		all = append(all, d.Crash(picks))
+	}
+	return all
+}
+
+// Picks is the picks by which a crash leaves each of these, once each.
+func Picks(d *simfs.Disk) [][]int {
+	var all [][]int
 	known := map[string]int{}
 	add := func(picks ...int) bool {
-		image := d.Crash(picks)
-		k := Key(image)
+		k := Key(d.Crash(picks))
 		known[k]++
 		if known[k] == 1 {
-			all = append(all, image)
+			all = append(all, slices.Clone(picks))
 		}
 		return known[k] == 1
 	}
